@@ -721,28 +721,59 @@ func TestLastNumber(t *testing.T) {
 	checkBlock(t, mustOpen(t, d), 12, of('a'))
 }
 
+// checkNone looks at what a nil store answers, and one that Open did not make too.
+func checkNone(t *testing.T, s *Store) {
+	t.Helper()
+	if s.Shape() != (api.Shape{}) || s.Busy() || s.Count() != 0 {
+		t.Errorf("%v, %v, %d", s.Shape(), s.Busy(), s.Count())
+	}
+	for _, at := range []int{-1, 0, 1, 12, math.MaxInt} {
+		if b, e := s.Read(at); b != "" || e != api.ErrNone {
+			t.Errorf("Read(%d): %q, %v", at, b, e)
+		}
+	}
+	if done, e := s.Step(); done || e != api.ErrState || s.Checkpoint() != api.ErrState {
+		t.Errorf("Step: %v, %v", done, e)
+	}
+	for _, l := range [][]api.Change{nil, {}, at('a', 12), at('a', 0)} {
+		checkCommits(t, s, l, api.ErrState)
+	}
+}
+
+func checkCommits(t *testing.T, s *Store, l []api.Change, want api.Errno) {
+	t.Helper()
+	if one, all := s.Commit(l), s.All(l); one != want || all != want {
+		t.Errorf("of %d changes: Commit %v, All %v; want %v", len(l), one, all, want)
+	}
+}
+
+// wrongByThemselves are changes that are not right for any store.
+func wrongByThemselves() [][]api.Change {
+	return [][]api.Change{
+		{{}},
+		{{Block: 0, Data: ""}},
+		{{Block: 12, Data: of('a')[1:]}},
+		{{Block: 12, Data: of('a') + "a"}},
+		at('a', -1),
+		at('a', api.MaxBlocks),
+		at('a', 12, 12),
+		at('a', 13, 12),
+		run(firstFree, api.MaxChange+1, 'a'),
+	}
+}
+
 func TestNilStore(t *testing.T) {
-	for _, s := range []*Store{nil, {}} {
-		if s.Shape() != (api.Shape{}) || s.Busy() || s.Count() != 0 {
-			t.Errorf("%v, %v, %d", s.Shape(), s.Busy(), s.Count())
-		}
-		for _, at := range []int{-1, 0, 1, 12, math.MaxInt} {
-			if b, e := s.Read(at); b != "" || e != api.ErrNone {
-				t.Errorf("Read(%d): %q, %v", at, b, e)
-			}
-		}
-		for _, l := range [][]api.Change{nil, {}, at('a', 12), at('a', 0)} {
-			if s.Commit(l) != api.ErrState || s.All(l) != api.ErrState {
-				t.Errorf("Commit, All: %v, %v", s.Commit(l), s.All(l))
-			}
-		}
-		// An argument that is not right by itself comes first.
-		if s.Commit(at('a', 12, 12)) != api.ErrTxn || s.All(at('a', 12, 12)) != api.ErrTxn {
-			t.Error("Commit, All of wrong changes")
-		}
-		if done, e := s.Step(); done || e != api.ErrState || s.Checkpoint() != api.ErrState {
-			t.Errorf("Step: %v, %v", done, e)
-		}
+	checkNone(t, nil)
+	for _, l := range wrongByThemselves() {
+		checkCommits(t, nil, l, api.ErrState)
+	}
+}
+
+// A store that Open did not make is not nil: changes that are not right come ahead of its state.
+func TestUnmadeStore(t *testing.T) {
+	checkNone(t, &Store{})
+	for _, l := range wrongByThemselves() {
+		checkCommits(t, &Store{}, l, api.ErrTxn)
 	}
 }
 

@@ -683,27 +683,70 @@ func TestApplied(t *testing.T) {
 	if l := work(t, x); len(l) != 1 || l[0].Req != 1 || l[0].Result.E != api.OK {
 		t.Fatalf("%v", l)
 	}
-	// Node 1 leads now, and tells that the second is committed.
+	// Node 1 leads now, and tells that the second is committed: it is not applied ahead of that view's flush.
 	m := msg.Message{Kind: msg.Start, View: 1, Commit: 2, Entries: append(entries(0, 1, 2), entries(1, 3, 1)...)}
 	hear(t, x, 1, m)
 	refused(t, x, 1, 2, create("/a"), api.ErrState)
-	l := work(t, x)
-	if len(l) != 1 || l[0].Req != 2 || l[0].Node != 0 || l[0].Result.E != api.Exists {
-		t.Fatalf("%v", l)
-	}
-	// The third is committed, but not flushed: it is not applied yet. Nobody called it here.
-	hear(t, x, 1, msg.Message{Kind: msg.Prepare, View: 1, At: 3, Commit: 3})
-	stands(t, x, Stand{Up: true, Normal: true, View: 1, Len: 3, Flushed: 2, Commit: 3, Applied: 2})
+	stands(t, x, Stand{Up: true, Normal: true, View: 1, Len: 3, Flushed: 2, Commit: 2, Applied: 1})
 	if l := work(t, x); len(l) != 0 {
 		t.Fatalf("%v", l)
 	}
 	x.Flush()
-	stands(t, x, Stand{Up: true, Normal: true, View: 1, Len: 3, Flushed: 3, Commit: 3, Applied: 2})
+	l := work(t, x)
+	if len(l) != 1 || l[0].Req != 2 || l[0].Node != 0 || l[0].Result.E != api.Exists {
+		t.Fatalf("%v", l)
+	}
+	// The fourth is committed, but not flushed: the third alone is applied. Nobody called them here.
+	hear(t, x, 1, msg.Message{Kind: msg.Prepare, View: 1, At: 3, Commit: 4, Entries: entries(1, 4, 1)})
 	if l := work(t, x); len(l) != 0 {
 		t.Fatalf("%v", l)
 	}
-	stands(t, x, Stand{Up: true, Normal: true, View: 1, Len: 3, Flushed: 3, Commit: 3, Applied: 3})
-	checkTree(t, small, x.Disk(), x.Log(), 3)
+	stands(t, x, Stand{Up: true, Normal: true, View: 1, Len: 4, Flushed: 3, Commit: 4, Applied: 3})
+	x.Flush()
+	stands(t, x, Stand{Up: true, Normal: true, View: 1, Len: 4, Flushed: 4, Commit: 4, Applied: 3})
+	if l := work(t, x); len(l) != 0 {
+		t.Fatalf("%v", l)
+	}
+	stands(t, x, Stand{Up: true, Normal: true, View: 1, Len: 4, Flushed: 4, Commit: 4, Applied: 4})
+	checkTree(t, small, x.Disk(), x.Log(), 4)
+}
+
+// What a crash brings back applied was committed in no later view than the one that it brings back.
+func TestAppliedOfView(t *testing.T) {
+	told := []msg.Message{
+		{Kind: msg.Start, View: 3, Commit: 2, Entries: entries(0, 1, 3)},
+		{Kind: msg.Prepare, View: 3, At: 3, Commit: 3},
+	}
+	for flushes := range 2 {
+		x := follower(t, 1, 3, 3)
+		hear(t, x, 0, msg.Message{Kind: msg.Prepare, At: 3, Commit: 1})
+		for _, m := range told {
+			hear(t, x, 0, m)
+		}
+		for range flushes {
+			x.Flush()
+		}
+		// What view 0 told to be committed is applied in any case.
+		work(t, x)
+		applied := 1 + 2*flushes
+		stands(t, x, Stand{Up: true, Normal: true, View: 3, Len: 3, Flushed: 3, Commit: 3, Applied: applied})
+		x.Crash(nil, 0)
+		x.Start()
+		stands(t, x, Stand{Up: true, Normal: true, View: 3 * flushes, Len: 3, Flushed: 3, Commit: applied, Applied: applied})
+	}
+	// A view that is flushed while it is changing is told no less.
+	x := changing(t, 1, 3, 3, 3)
+	hear(t, x, 0, told[0])
+	work(t, x)
+	stands(t, x, Stand{Up: true, Normal: true, View: 3, Len: 3, Flushed: 3, Commit: 2, Applied: 2})
+	// The primary that begins a view is told by offers what is committed.
+	y := changing(t, 0, 2, 3, 3)
+	hear(t, y, 1, msg.Message{Kind: msg.Offer, View: 3, At: 3, Commit: 3, Entries: entries(0, 1, 3)})
+	work(t, y)
+	stands(t, y, Stand{Up: true, Normal: true, View: 3, Len: 3, Flushed: 3, Commit: 3})
+	y.Flush()
+	work(t, y)
+	stands(t, y, Stand{Up: true, Normal: true, View: 3, Len: 3, Flushed: 3, Commit: 3, Applied: 3})
 }
 
 // someNumber is one of a message that may do something: most often one of the node's own.

@@ -15,7 +15,7 @@ func (x *Node) wake() {
 	x.log.Replace(0, x.lasts.entries)
 	x.store, _ = mend.Open(x.device)
 	x.results = x.replay(x.store.Count())
-	x.commit = x.store.Count()
+	x.commit, x.sure = x.store.Count(), x.store.Count()
 	x.forget()
 }
 
@@ -115,6 +115,9 @@ func (x *Node) add(e api.Entry) api.Errno {
 // learn has it know that so many entries are committed.
 func (x *Node) learn(commit int) {
 	x.commit = max(x.commit, commit)
+	if x.lasts.meta.View == x.meta.View {
+		x.sure = x.commit
+	}
 }
 
 // count has the primary commit what enough nodes have.

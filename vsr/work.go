@@ -104,7 +104,7 @@ func (x *Node) act() {
 // begin has the store be busy with the next entry, if it may be applied.
 func (x *Node) begin() {
 	number := x.store.Count() + 1
-	if number > x.commit || number > x.flushed() {
+	if number > x.sure || number > x.flushed() {
 		return
 	}
 	entry, _ := x.log.Get(number)

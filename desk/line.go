@@ -81,12 +81,11 @@ func mustBeSaid[T any](keys []key[T]) bool {
 	return slices.ContainsFunc(keys, func(k key[T]) bool { return k.must })
 }
 
-// write is the line that says something by a verb.
+// write is the line that says by a verb what this has keys for.
 func write[T any](v verb[T], x T) string {
 	line := v.name
 	for _, k := range v.keys {
 		value := k.tell(&x)
-		need(value != "" || !k.must)
 		if value != "" {
 			line += between + k.name + equals + value
 		}
